@@ -1,0 +1,105 @@
+// Package act: what an act does to the memory and the symbols of a kernel. It
+// makes objects whole, keeps them while it goes on, and gives back what it
+// must where it is refused: see DOC.md, M2 to M4.
+package act
+
+import (
+	"kiln/api"
+	"kiln/space"
+	"kiln/symbol"
+	"kiln/word"
+)
+
+// Act is an act that goes on, and how things were when it began.
+type Act struct {
+	space   *space.Space
+	symbols *symbol.Table
+	count   int
+	mark    int
+	kept    int
+}
+
+// Begin is an act over a space and its symbols.
+func Begin(s *space.Space, t *symbol.Table) *Act {
+	return &Act{space: s, symbols: t, count: t.Count(), mark: s.Heap().Marked()}
+}
+
+// Symbols is the words of some texts' symbols; those that are new are added, in order.
+func (a *Act) Symbols(texts ...string) ([]api.Word, api.Errno) {
+	var list []api.Word
+	for _, text := range texts {
+		n, e := a.symbols.Add(text)
+		if e != api.OK {
+			return nil, e
+		}
+		w, e := word.Symbol(n)
+		if e != api.OK {
+			return nil, e
+		}
+		list = append(list, w)
+	}
+	return list, api.OK
+}
+
+// Array is an Array of these slots; the empty one is the kernel's own.
+func (a *Act) Array(slots ...api.Word) (api.Word, api.Errno) {
+	if len(slots) == 0 {
+		return word.Object(api.Empty)
+	}
+	return a.Make(api.Array, slots...)
+}
+
+// Make is a new object of a class, with these slots, kept until the act ends.
+func (a *Act) Make(class int, slots ...api.Word) (api.Word, api.Errno) {
+	c, e := word.Object(class)
+	if e != api.OK {
+		return 0, e
+	}
+	w, e := a.space.Alloc(c, len(slots), api.FormatWords)
+	if e != api.OK {
+		return 0, e
+	}
+	if e = a.fill(w, slots); e != api.OK {
+		return 0, e
+	}
+	if e = a.Keep(w); e != api.OK {
+		return 0, e
+	}
+	return w, api.OK
+}
+
+func (a *Act) fill(w api.Word, slots []api.Word) api.Errno {
+	oop, e := word.Oop(w)
+	for i := 0; i < len(slots) && e == api.OK; i++ {
+		e = a.space.Heap().Put(oop, i, slots[i])
+	}
+	return e
+}
+
+// Keep lets nothing of what these words lead to go until the act ends.
+func (a *Act) Keep(words ...api.Word) api.Errno {
+	e := a.space.Keep(words...)
+	if e == api.OK {
+		a.kept += len(words)
+	}
+	return e
+}
+
+// End lets go what was kept. If the act was refused, it gives back the symbols
+// that it added, and the mark's count; the answer is what it was refused for.
+func (a *Act) End(e api.Errno) api.Errno {
+	a.space.Drop(a.kept)
+	a.kept = 0
+	if e != api.OK {
+		a.back()
+	}
+	return e
+}
+
+func (a *Act) back() {
+	a.symbols.Back(a.count)
+	// A mark that hit is used up: there is none now to set back.
+	if a.space.Heap().Marked() != 0 {
+		a.space.Heap().Mark(a.mark)
+	}
+}

@@ -1,0 +1,167 @@
+package act_test
+
+import (
+	"slices"
+	"testing"
+
+	"kiln/act"
+	"kiln/api"
+	"kiln/space"
+	"kiln/symbol"
+)
+
+// begun is an act over a space with room for so many words, in which one
+// object is kept, and over symbols of which two are there and one more has room.
+func begun(t *testing.T, words int) (*act.Act, *space.Space, *symbol.Table) {
+	t.Helper()
+	s, e := space.New(words, 10)
+	if e != api.OK {
+		t.Fatalf("New = %d", e)
+	}
+	x, e := symbol.Load([]string{"a", "b"}, 3)
+	if e != api.OK {
+		t.Fatalf("Load = %d", e)
+	}
+	s.Alloc(4, 1, 0)
+	s.Keep(4)
+	s.Heap().Mark(9)
+	return act.Begin(s, x), s, x
+}
+
+func wantErr(t *testing.T, what string, got, want api.Errno) {
+	t.Helper()
+	if got != want {
+		t.Fatalf("%s = %d, want %d", what, got, want)
+	}
+}
+
+func wantState(t *testing.T, s *space.Space, x *symbol.Table, mark, symbols int, kept ...api.Word) {
+	t.Helper()
+	if s.Heap().Marked() != mark || x.Count() != symbols || !slices.Equal(s.Kept(), kept) {
+		t.Fatalf("the mark %d, %d symbols, %d kept, want %d, %d, %d", s.Heap().Marked(), x.Count(), s.Kept(), mark, symbols, kept)
+	}
+}
+
+// M2, M3: what is made is whole, and kept till the act ends.
+func TestMakes(t *testing.T) {
+	a, s, x := begun(t, 20)
+	list, e := a.Symbols("b", "c", "a")
+	if e != api.OK || !slices.Equal(list, []api.Word{6, 10, 2}) {
+		t.Fatalf("Symbols = %d, %d", list, e)
+	}
+	w, e := a.Array(list...)
+	if w != 8 || e != api.OK {
+		t.Fatalf("Array = %d, %d", w, e)
+	}
+	v, e := a.Make(api.Object, 3, 8)
+	if v != 12 || e != api.OK {
+		t.Fatalf("Make = %d, %d", v, e)
+	}
+	none, e := a.Array()
+	if none != 4*api.Empty || e != api.OK {
+		t.Fatalf("Array of nothing = %d, %d", none, e)
+	}
+	wantErr(t, "Keep", a.Keep(5, 7), api.OK)
+	wantState(t, s, x, 7, 3, 4, 8, 12, 5, 7)
+	s.Collect()
+	objects := s.Heap().State().Objects
+	if len(objects) != 3 || objects[1].Class != 4*api.Array || objects[2].Class != 4*api.Object {
+		t.Fatalf("the objects %v", objects)
+	}
+	if !slices.Equal(objects[1].Slots, list) || !slices.Equal(objects[2].Slots, []api.Word{3, 8}) {
+		t.Fatalf("the objects %v", objects)
+	}
+	wantErr(t, "End", a.End(api.OK), api.OK)
+	wantState(t, s, x, 7, 3, 4)
+}
+
+// M4: what is refused gives back its symbols and the mark's count.
+func TestRefused(t *testing.T) {
+	a, s, x := begun(t, 20)
+	a.Symbols("c")
+	a.Array(5)
+	wantErr(t, "End", a.End(api.ErrName), api.ErrName)
+	wantState(t, s, x, 9, 2, 4)
+	wantErr(t, "End again", a.End(api.ErrName), api.ErrName)
+	wantState(t, s, x, 9, 2, 4)
+}
+
+// M4: a mark that hit is used up.
+func TestMarked(t *testing.T) {
+	_, s, x := begun(t, 20)
+	s.Heap().Mark(2)
+	a := act.Begin(s, x)
+	a.Array(5)
+	w, e := a.Array(5)
+	if w != 0 || e != api.ErrMarked {
+		t.Fatalf("Array = %d, %d", w, e)
+	}
+	a.End(e)
+	wantState(t, s, x, 0, 2, 4)
+}
+
+// What cannot be done is told, and nothing is kept by it.
+func TestErrors(t *testing.T) {
+	a, s, x := begun(t, 9)
+	list, e := a.Symbols("a", "c", "d")
+	if list != nil || e != api.ErrSymbols {
+		t.Fatalf("Symbols = %d, %d", list, e)
+	}
+	for _, c := range []struct {
+		class int
+		slots []api.Word
+		e     api.Errno
+	}{
+		{0, nil, api.ErrArg}, {65537, nil, api.ErrArg},
+		{4, make([]api.Word, 8193), api.ErrSize},
+		{4, make([]api.Word, 5), api.ErrFull},
+		{4, []api.Word{3, 0}, api.ErrWord},
+	} {
+		if w, e := a.Make(c.class, c.slots...); w != 0 || e != c.e {
+			t.Fatalf("Make(%d, %d slots) = %d, %d, want 0, %d", c.class, len(c.slots), w, e, c.e)
+		}
+	}
+	wantErr(t, "Keep", a.Keep(3, 0), api.ErrWord)
+	wantState(t, s, x, 8, 3, 4)
+	a.End(api.ErrFull)
+	wantState(t, s, x, 9, 2, 4)
+}
+
+// Where the space's stack has no room, what is made is not answered.
+func TestStackIsFull(t *testing.T) {
+	_, s, x := begun(t, 20)
+	for len(s.Kept()) < api.MaxKept {
+		s.Keep(make4(min(1024, api.MaxKept-len(s.Kept())))...)
+	}
+	a := act.Begin(s, x)
+	w, e := a.Make(4)
+	if w != 0 || e != api.ErrSize {
+		t.Fatalf("Make = %d, %d", w, e)
+	}
+	a.End(e)
+	if len(s.Kept()) != api.MaxKept {
+		t.Fatalf("%d are kept", len(s.Kept()))
+	}
+}
+
+func make4(n int) []api.Word {
+	list := make([]api.Word, n)
+	for i := range list {
+		list[i] = 4
+	}
+	return list
+}
+
+// A space and symbols that are not there: every call ends.
+func TestNothing(t *testing.T) {
+	for _, a := range []*act.Act{act.Begin(nil, nil), act.Begin(new(space.Space), new(symbol.Table))} {
+		if list, e := a.Symbols("a"); list != nil || e != api.ErrNil {
+			t.Fatalf("Symbols = %d, %d", list, e)
+		}
+		if w, e := a.Make(4, 4); w != 0 || e != api.ErrNil {
+			t.Fatalf("Make = %d, %d", w, e)
+		}
+		wantErr(t, "Keep", a.Keep(4), api.ErrNil)
+		wantErr(t, "End", a.End(api.ErrNil), api.ErrNil)
+	}
+}
