@@ -1,0 +1,62 @@
+// Package object: a kernel's objects, their slots read as what they hold.
+package object
+
+import (
+	"kiln/api"
+	"kiln/class"
+	"kiln/word"
+)
+
+// Object is an object of a kernel. Where nothing is to be read, in a space that
+// no kernel made, it reads zeros: the object 0 is none, and has no slots.
+type Object struct {
+	kernel *class.Kernel
+	oop    int
+}
+
+// Of is the object of that oop.
+func Of(k *class.Kernel, oop int) Object { return Object{k, oop} }
+
+// Oop is the object's number.
+func (o Object) Oop() int { return o.oop }
+
+// Word is the word that names the object, if it is there.
+func (o Object) Word() (api.Word, api.Errno) {
+	if _, e := o.kernel.Space().Heap().Class(o.oop); e != api.OK {
+		return 0, e
+	}
+	return word.Object(o.oop)
+}
+
+// Size is how many slots it has.
+func (o Object) Size() int {
+	n, _, _ := o.kernel.Space().Heap().Size(o.oop)
+	return n
+}
+
+// At is what a slot holds.
+func (o Object) At(i int) api.Word {
+	w, _ := o.kernel.Space().Heap().At(o.oop, i)
+	return w
+}
+
+// Put stores to a slot.
+func (o Object) Put(i int, w api.Word) api.Errno {
+	return o.kernel.Space().Heap().Put(o.oop, i, w)
+}
+
+// ObjectAt is the object that a slot names.
+func (o Object) ObjectAt(i int) Object {
+	oop, _ := word.Oop(o.At(i))
+	return Object{o.kernel, oop}
+}
+
+// TextAt is the text of the symbol that a slot holds; "", which is no symbol's: it holds none.
+func (o Object) TextAt(i int) string {
+	n, e := word.Sym(o.At(i))
+	if e != api.OK {
+		return ""
+	}
+	text, _ := o.kernel.Symbols().Text(n)
+	return text
+}
