@@ -51,11 +51,24 @@ func (a *Act) Array(slots ...api.Word) (api.Word, api.Errno) {
 
 // Make is a new object of a class, with these slots, kept until the act ends.
 func (a *Act) Make(class int, slots ...api.Word) (api.Word, api.Errno) {
+	return a.made(class, api.FormatWords, slots)
+}
+
+// String is a new String of these bytes, kept until the act ends; the empty one, too, is new.
+func (a *Act) String(text string) (api.Word, api.Errno) {
+	slots := make([]api.Word, len(text))
+	for i := range slots {
+		slots[i] = api.Word(text[i])
+	}
+	return a.made(api.String, api.FormatBytes, slots)
+}
+
+func (a *Act) made(class, format int, slots []api.Word) (api.Word, api.Errno) {
 	c, e := word.Object(class)
 	if e != api.OK {
 		return 0, e
 	}
-	w, e := a.space.Alloc(c, len(slots), api.FormatWords)
+	w, e := a.space.Alloc(c, len(slots), format)
 	if e != api.OK {
 		return 0, e
 	}
@@ -91,12 +104,13 @@ func (a *Act) End(e api.Errno) api.Errno {
 	a.space.Drop(a.kept)
 	a.kept = 0
 	if e != api.OK {
-		a.back()
+		a.Back()
 	}
 	return e
 }
 
-func (a *Act) back() {
+// Back gives back the symbols that the act added, and the mark's count.
+func (a *Act) Back() {
 	a.symbols.Back(a.count)
 	// A mark that hit is used up: there is none now to set back.
 	if a.space.Heap().Marked() != 0 {

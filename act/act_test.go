@@ -75,6 +75,42 @@ func TestMakes(t *testing.T) {
 	wantState(t, s, x, 7, 3, 4)
 }
 
+// M3: a String has a text's bytes; the empty one is made, too.
+func TestStrings(t *testing.T) {
+	a, s, x := begun(t, 20)
+	for i, text := range []string{"a\x00\xff'z", "", "four"} {
+		if w, e := a.String(text); w != api.Word(8+4*i) || e != api.OK {
+			t.Fatalf("String(%q) = %d, %d", text, w, e)
+		}
+	}
+	wantState(t, s, x, 6, 2, 4, 8, 12, 16)
+	s.Collect()
+	objects := s.Heap().State().Objects
+	for i, slots := range [][]api.Word{{97, 0, 255, 39, 122}, nil, {102, 111, 117, 114}} {
+		o := objects[i+1]
+		if o.Class != 4*api.String || o.Format != api.FormatBytes || !slices.Equal(o.Slots, slots) {
+			t.Fatalf("the String is %v, want %d", o, slots)
+		}
+	}
+	if w, e := a.String("this is too long, for there is no room for it in the heap"); w != 0 || e != api.ErrFull {
+		t.Fatalf("String = %d, %d", w, e)
+	}
+	a.End(api.OK)
+	wantState(t, s, x, 6, 2, 4)
+}
+
+// M4: what an act added and counted is given back also where it goes on.
+func TestBack(t *testing.T) {
+	a, s, x := begun(t, 20)
+	a.Symbols("c")
+	a.Array(5)
+	a.Back()
+	wantState(t, s, x, 9, 2, 4, 8)
+	a.Symbols("d")
+	wantErr(t, "End", a.End(api.OK), api.OK)
+	wantState(t, s, x, 9, 3, 4)
+}
+
 // M4: what is refused gives back its symbols and the mark's count.
 func TestRefused(t *testing.T) {
 	a, s, x := begun(t, 20)
@@ -161,6 +197,10 @@ func TestNothing(t *testing.T) {
 		if w, e := a.Make(4, 4); w != 0 || e != api.ErrNil {
 			t.Fatalf("Make = %d, %d", w, e)
 		}
+		if w, e := a.String("a"); w != 0 || e != api.ErrNil {
+			t.Fatalf("String = %d, %d", w, e)
+		}
+		a.Back()
 		wantErr(t, "Keep", a.Keep(4), api.ErrNil)
 		wantErr(t, "End", a.End(api.ErrNil), api.ErrNil)
 	}

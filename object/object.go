@@ -34,6 +34,18 @@ func (o Object) Size() int {
 	return n
 }
 
+// Is tells whether it is there, and of that class and format. The kernel's
+// classes are known by their oops.
+func (o Object) Is(class, format int) bool {
+	c, e := o.kernel.Space().Heap().Class(o.oop)
+	if e != api.OK {
+		return false
+	}
+	of, e := word.Oop(c)
+	_, is, _ := o.kernel.Space().Heap().Size(o.oop)
+	return e == api.OK && of == class && is == format
+}
+
 // At is what a slot holds.
 func (o Object) At(i int) api.Word {
 	w, _ := o.kernel.Space().Heap().At(o.oop, i)
@@ -51,6 +63,12 @@ func (o Object) ObjectAt(i int) Object {
 	return Object{o.kernel, oop}
 }
 
+// NumberAt is the number that a slot holds; 0: it holds none.
+func (o Object) NumberAt(i int) int {
+	n, _ := word.Num(o.At(i))
+	return n
+}
+
 // TextAt is the text of the symbol that a slot holds; "", which is no symbol's: it holds none.
 func (o Object) TextAt(i int) string {
 	n, e := word.Sym(o.At(i))
@@ -59,4 +77,31 @@ func (o Object) TextAt(i int) string {
 	}
 	text, _ := o.kernel.Symbols().Text(n)
 	return text
+}
+
+// Words is what all slots hold.
+func (o Object) Words() []api.Word {
+	list := make([]api.Word, o.Size())
+	for i := range list {
+		list[i] = o.At(i)
+	}
+	return list
+}
+
+// Numbers is the numbers that all slots hold.
+func (o Object) Numbers() []int {
+	list := make([]int, o.Size())
+	for i := range list {
+		list[i] = o.NumberAt(i)
+	}
+	return list
+}
+
+// Bytes is the text of an object of bytes.
+func (o Object) Bytes() string {
+	list := make([]byte, o.Size())
+	for i := range list {
+		list[i] = byte(o.At(i))
+	}
+	return string(list)
 }

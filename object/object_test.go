@@ -2,6 +2,7 @@ package object_test
 
 import (
 	"math"
+	"slices"
 	"testing"
 
 	"kiln/api"
@@ -33,11 +34,51 @@ func TestReads(t *testing.T) {
 	if up := o.ObjectAt(api.ClassSuper); up.Oop() != 4 || up.TextAt(api.ClassName) != "Object" {
 		t.Fatalf("the superclass is %d", up.Oop())
 	}
+	if o.NumberAt(api.ClassNumber) != 5 || o.NumberAt(api.ClassName) != 0 || o.NumberAt(api.ClassSuper) != 0 {
+		t.Fatalf("the numbers are %d, %d", o.NumberAt(api.ClassNumber), o.NumberAt(api.ClassName))
+	}
 	if o.TextAt(api.ClassName) != "Integer" || o.TextAt(api.ClassSuper) != "" || o.TextAt(api.ClassNumber) != "" {
 		t.Fatalf("the texts are %q, %q", o.TextAt(api.ClassName), o.TextAt(api.ClassSuper))
 	}
 	if o.ObjectAt(api.ClassName).Oop() != 0 || o.ObjectAt(api.ClassNumber).Oop() != 0 {
 		t.Fatal("what is no object is one")
+	}
+}
+
+// All slots at one time, and of which class and format they are.
+func TestReadsAll(t *testing.T) {
+	k := booted(t)
+	o := object.Of(k, api.Integer)
+	if list := o.Words(); !slices.Equal(list, []api.Word{18, 16, 72, 72, 72, 1, 11}) {
+		t.Fatalf("Words = %d", list)
+	}
+	if list := o.Numbers(); !slices.Equal(list, []int{0, 0, 0, 0, 0, 0, 5}) {
+		t.Fatalf("Numbers = %d", list)
+	}
+	w, _ := k.Space().Alloc(4*api.String, 3, api.FormatBytes)
+	for i, b := range []api.Word{97, 255, 0} {
+		k.Space().Heap().Put(int(w)/4, i, b)
+	}
+	s := object.Of(k, int(w)/4)
+	if s.Bytes() != "a\xff\x00" || object.Of(k, api.Empty).Bytes() != "" {
+		t.Fatalf("Bytes = %q", s.Bytes())
+	}
+	for _, c := range []struct {
+		o             object.Object
+		class, format int
+		want          bool
+	}{
+		{o, api.Class, 0, true}, {o, api.Class, 1, false}, {o, api.Integer, 0, false},
+		{s, api.String, 1, true}, {s, api.String, 0, false}, {s, api.Array, 1, false},
+		{object.Of(k, api.Empty), api.Array, 0, true}, {object.Of(k, 99), 0, 0, false},
+	} {
+		if c.o.Is(c.class, c.format) != c.want {
+			t.Fatalf("%d is of %d, %d: %v", c.o.Oop(), c.class, c.format, !c.want)
+		}
+	}
+	k.Space().Heap().SetClass(int(w)/4, 3)
+	if s.Is(0, 1) || s.Is(1, 1) {
+		t.Fatal("an object whose class is a number is of one")
 	}
 }
 
@@ -68,6 +109,9 @@ func TestNothing(t *testing.T) {
 		for _, oop := range []int{0, -1, 21, 65537, math.MaxInt, math.MinInt} {
 			o := object.Of(k, oop)
 			if o.Oop() != oop || o.Size() != 0 || o.At(0) != 0 || o.TextAt(0) != "" || o.ObjectAt(0).Oop() != 0 {
+				t.Fatalf("the object %d is there", oop)
+			}
+			if o.NumberAt(0) != 0 || len(o.Words()) != 0 || len(o.Numbers()) != 0 || o.Bytes() != "" || o.Is(0, 0) || o.Is(4, 0) {
 				t.Fatalf("the object %d is there", oop)
 			}
 			if w, e := o.Word(); w != 0 || e == api.OK {
