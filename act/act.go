@@ -64,15 +64,8 @@ func (a *Act) String(text string) (api.Word, api.Errno) {
 }
 
 func (a *Act) made(class, format int, slots []api.Word) (api.Word, api.Errno) {
-	c, e := word.Object(class)
+	w, e := Lay(a.space, class, format, len(slots), slots...)
 	if e != api.OK {
-		return 0, e
-	}
-	w, e := a.space.Alloc(c, len(slots), format)
-	if e != api.OK {
-		return 0, e
-	}
-	if e = a.fill(w, slots); e != api.OK {
 		return 0, e
 	}
 	if e = a.Keep(w); e != api.OK {
@@ -81,10 +74,27 @@ func (a *Act) made(class, format int, slots []api.Word) (api.Word, api.Errno) {
 	return w, api.OK
 }
 
-func (a *Act) fill(w api.Word, slots []api.Word) api.Errno {
+// Lay is a new object of a class, with n slots of which the first hold these.
+// It is part of no act: nothing is kept for it, neither it nor what they name.
+func Lay(s *space.Space, class, format, n int, first ...api.Word) (api.Word, api.Errno) {
+	c, e := word.Object(class)
+	if e != api.OK {
+		return 0, e
+	}
+	w, e := s.Alloc(c, n, format)
+	if e != api.OK {
+		return 0, e
+	}
+	if e = fill(s, w, first); e != api.OK {
+		return 0, e
+	}
+	return w, api.OK
+}
+
+func fill(s *space.Space, w api.Word, first []api.Word) api.Errno {
 	oop, e := word.Oop(w)
-	for i := 0; i < len(slots) && e == api.OK; i++ {
-		e = a.space.Heap().Put(oop, i, slots[i])
+	for i := 0; i < len(first) && e == api.OK; i++ {
+		e = s.Heap().Put(oop, i, first[i])
 	}
 	return e
 }

@@ -99,6 +99,46 @@ func TestStrings(t *testing.T) {
 	wantState(t, s, x, 6, 2, 4)
 }
 
+// What is laid has its first slots filled, and is not kept.
+func TestLay(t *testing.T) {
+	_, s, x := begun(t, 20)
+	for i, c := range []struct {
+		class, format, n int
+		first, want      []api.Word
+	}{
+		{api.Array, 0, 3, []api.Word{5, 8}, []api.Word{5, 8, 4}}, {api.String, 1, 3, []api.Word{255}, []api.Word{255, 0, 0}},
+		{api.Object, 0, 0, nil, nil}, {api.Block, 0, 1, []api.Word{7}, []api.Word{7}},
+	} {
+		w, e := act.Lay(s, c.class, c.format, c.n, c.first...)
+		if w != api.Word(8+4*i) || e != api.OK {
+			t.Fatalf("Lay(%v) = %d, %d", c, w, e)
+		}
+		objects := s.Heap().State().Objects
+		if o := objects[i+1]; o.Class != api.Word(4*c.class) || o.Format != c.format || !slices.Equal(o.Slots, c.want) {
+			t.Fatalf("the object is %v, want %v", o, c)
+		}
+	}
+	wantState(t, s, x, 5, 2, 4)
+	// There is no room but what is laid already, which goes.
+	if w, e := act.Lay(s, api.Array, 0, 15); w != 8 || e != api.OK {
+		t.Fatalf("Lay = %d, %d", w, e)
+	}
+	for _, c := range []struct {
+		class, format, n int
+		e                api.Errno
+	}{{0, 0, 0, api.ErrArg}, {65537, 0, 0, api.ErrArg}, {4, 2, 0, api.ErrArg}, {4, 0, -1, api.ErrArg}, {4, 0, 8193, api.ErrSize}, {4, 0, 16, api.ErrFull}} {
+		if w, e := act.Lay(s, c.class, c.format, c.n); w != 0 || e != c.e {
+			t.Fatalf("Lay(%v) = %d, %d", c, w, e)
+		}
+	}
+	if w, e := act.Lay(s, 4, 0, 1, 0); w != 0 || e != api.ErrWord {
+		t.Fatalf("Lay of no word = %d, %d", w, e)
+	}
+	if w, e := act.Lay(nil, 4, 0, 1, 3); w != 0 || e != api.ErrNil {
+		t.Fatalf("Lay without a space = %d, %d", w, e)
+	}
+}
+
 // M4: what an act added and counted is given back also where it goes on.
 func TestBack(t *testing.T) {
 	a, s, x := begun(t, 20)
