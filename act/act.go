@@ -51,27 +51,32 @@ func (a *Act) Array(slots ...api.Word) (api.Word, api.Errno) {
 
 // Make is a new object of a class, with these slots, kept until the act ends.
 func (a *Act) Make(class int, slots ...api.Word) (api.Word, api.Errno) {
-	return a.made(class, api.FormatWords, slots)
+	return a.holding(Lay(a.space, class, api.FormatWords, len(slots), slots...))
 }
 
 // String is a new String of these bytes, kept until the act ends; the empty one, too, is new.
 func (a *Act) String(text string) (api.Word, api.Errno) {
+	return a.holding(LayString(a.space, text))
+}
+
+// holding keeps what was laid, if it was.
+func (a *Act) holding(w api.Word, e api.Errno) (api.Word, api.Errno) {
+	if e == api.OK {
+		e = a.Keep(w)
+	}
+	if e != api.OK {
+		return 0, e
+	}
+	return w, api.OK
+}
+
+// LayString is a new String of these bytes, laid as Lay lays.
+func LayString(s *space.Space, text string) (api.Word, api.Errno) {
 	slots := make([]api.Word, len(text))
 	for i := range slots {
 		slots[i] = api.Word(text[i])
 	}
-	return a.made(api.String, api.FormatBytes, slots)
-}
-
-func (a *Act) made(class, format int, slots []api.Word) (api.Word, api.Errno) {
-	w, e := Lay(a.space, class, format, len(slots), slots...)
-	if e != api.OK {
-		return 0, e
-	}
-	if e = a.Keep(w); e != api.OK {
-		return 0, e
-	}
-	return w, api.OK
+	return Lay(s, api.String, api.FormatBytes, len(slots), slots...)
 }
 
 // Lay is a new object of a class, with n slots of which the first hold these.

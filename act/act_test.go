@@ -139,6 +139,32 @@ func TestLay(t *testing.T) {
 	}
 }
 
+// A String that is laid has a text's bytes, and is not kept.
+func TestLayString(t *testing.T) {
+	_, s, x := begun(t, 20)
+	for i, text := range []string{"a\x00\xffz'", "", "four"} {
+		w, e := act.LayString(s, text)
+		if w != api.Word(8+4*i) || e != api.OK {
+			t.Fatalf("LayString(%q) = %d, %d", text, w, e)
+		}
+		var slots []api.Word
+		for _, b := range []byte(text) {
+			slots = append(slots, api.Word(b))
+		}
+		o := s.Heap().State().Objects[i+1]
+		if o.Class != 4*api.String || o.Format != api.FormatBytes || !slices.Equal(o.Slots, slots) {
+			t.Fatalf("the String is %v, want %d", o, slots)
+		}
+	}
+	wantState(t, s, x, 6, 2, 4)
+	if w, e := act.LayString(s, "this is too long, for there is no room for it in the heap, though all else goes"); w != 0 || e != api.ErrFull {
+		t.Fatalf("LayString = %d, %d", w, e)
+	}
+	if w, e := act.LayString(nil, "a"); w != 0 || e != api.ErrNil {
+		t.Fatalf("LayString without a space = %d, %d", w, e)
+	}
+}
+
 // M4: what an act added and counted is given back also where it goes on.
 func TestBack(t *testing.T) {
 	a, s, x := begun(t, 20)

@@ -34,6 +34,12 @@ func (o Object) Size() int {
 	return n
 }
 
+// Format is that of its slots.
+func (o Object) Format() int {
+	_, format, _ := o.kernel.Space().Heap().Size(o.oop)
+	return format
+}
+
 // Is tells whether it is there, and of that class and format. The kernel's
 // classes are known by their oops.
 func (o Object) Is(class, format int) bool {
@@ -42,8 +48,7 @@ func (o Object) Is(class, format int) bool {
 		return false
 	}
 	of, e := word.Oop(c)
-	_, is, _ := o.kernel.Space().Heap().Size(o.oop)
-	return e == api.OK && of == class && is == format
+	return e == api.OK && of == class && o.Format() == format
 }
 
 // At is what a slot holds.

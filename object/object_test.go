@@ -60,6 +60,9 @@ func TestReadsAll(t *testing.T) {
 		k.Space().Heap().Put(int(w)/4, i, b)
 	}
 	s := object.Of(k, int(w)/4)
+	if s.Format() != api.FormatBytes || o.Format() != api.FormatWords || object.Of(k, 99).Format() != 0 {
+		t.Fatalf("the formats are %d, %d", s.Format(), o.Format())
+	}
 	if s.Bytes() != "a\xff\x00" || object.Of(k, api.Empty).Bytes() != "" {
 		t.Fatalf("Bytes = %q", s.Bytes())
 	}
@@ -108,7 +111,7 @@ func TestNothing(t *testing.T) {
 	for _, k := range []*class.Kernel{nil, none, over, known} {
 		for _, oop := range []int{0, -1, 21, 65537, math.MaxInt, math.MinInt} {
 			o := object.Of(k, oop)
-			if o.Oop() != oop || o.Size() != 0 || o.At(0) != 0 || o.TextAt(0) != "" || o.ObjectAt(0).Oop() != 0 {
+			if o.Oop() != oop || o.Size() != 0 || o.Format() != 0 || o.At(0) != 0 || o.TextAt(0) != "" || o.ObjectAt(0).Oop() != 0 {
 				t.Fatalf("the object %d is there", oop)
 			}
 			if o.NumberAt(0) != 0 || len(o.Words()) != 0 || len(o.Numbers()) != 0 || o.Bytes() != "" || o.Is(0, 0) || o.Is(4, 0) {
