@@ -57,6 +57,15 @@ func (o Object) At(i int) api.Word {
 	return w
 }
 
+// ValueAt is what a slot holds, a byte as the integer that it is.
+func (o Object) ValueAt(i int) api.Word {
+	w, e := o.kernel.Space().Heap().At(o.oop, i)
+	if e == api.OK && o.Format() == api.FormatBytes {
+		w, _ = word.Int(int(w))
+	}
+	return w
+}
+
 // Put stores to a slot.
 func (o Object) Put(i int, w api.Word) api.Errno {
 	return o.kernel.Space().Heap().Put(o.oop, i, w)

@@ -63,6 +63,9 @@ func TestReadsAll(t *testing.T) {
 	if s.Format() != api.FormatBytes || o.Format() != api.FormatWords || object.Of(k, 99).Format() != 0 {
 		t.Fatalf("the formats are %d, %d", s.Format(), o.Format())
 	}
+	if s.ValueAt(0) != 195 || s.ValueAt(1) != 511 || s.ValueAt(2) != 1 || s.ValueAt(3) != 0 || s.ValueAt(-1) != 0 || o.ValueAt(0) != 18 || o.ValueAt(7) != 0 {
+		t.Fatalf("the values are %d, %d, %d, %d, %d", s.ValueAt(0), s.ValueAt(1), s.ValueAt(2), s.ValueAt(3), o.ValueAt(0))
+	}
 	if s.Bytes() != "a\xff\x00" || object.Of(k, api.Empty).Bytes() != "" {
 		t.Fatalf("Bytes = %q", s.Bytes())
 	}
@@ -111,7 +114,7 @@ func TestNothing(t *testing.T) {
 	for _, k := range []*class.Kernel{nil, none, over, known} {
 		for _, oop := range []int{0, -1, 21, 65537, math.MaxInt, math.MinInt} {
 			o := object.Of(k, oop)
-			if o.Oop() != oop || o.Size() != 0 || o.Format() != 0 || o.At(0) != 0 || o.TextAt(0) != "" || o.ObjectAt(0).Oop() != 0 {
+			if o.Oop() != oop || o.Size() != 0 || o.Format() != 0 || o.At(0) != 0 || o.ValueAt(0) != 0 || o.TextAt(0) != "" || o.ObjectAt(0).Oop() != 0 {
 				t.Fatalf("the object %d is there", oop)
 			}
 			if o.NumberAt(0) != 0 || len(o.Words()) != 0 || len(o.Numbers()) != 0 || o.Bytes() != "" || o.Is(0, 0) || o.Is(4, 0) {

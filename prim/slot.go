@@ -44,7 +44,7 @@ func at(many func(a asked) int) answer {
 		if e != api.OK {
 			return 0, e
 		}
-		return read(a.object(), i)
+		return a.object().ValueAt(i), api.OK
 	}
 }
 
@@ -60,14 +60,6 @@ func atPut(many func(a asked) int) answer {
 		}
 		return a.y(), api.OK
 	}
-}
-
-// read is what a slot holds, a byte as the integer that it is.
-func read(o object.Object, i int) (api.Word, api.Errno) {
-	if o.Format() == api.FormatBytes {
-		return word.Int(int(o.At(i)))
-	}
-	return o.At(i), api.OK
 }
 
 // store lays a word into a slot, of a slot of bytes its number.
