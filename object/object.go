@@ -40,6 +40,13 @@ func (o Object) Format() int {
 	return format
 }
 
+// Class is the object that its class names.
+func (o Object) Class() Object {
+	c, _ := o.kernel.Space().Heap().Class(o.oop)
+	oop, _ := word.Oop(c)
+	return Object{o.kernel, oop}
+}
+
 // Is tells whether it is there, and of that class and format. The kernel's
 // classes are known by their oops.
 func (o Object) Is(class, format int) bool {

@@ -28,6 +28,9 @@ func TestReads(t *testing.T) {
 	if o.Oop() != 8 || o.Size() != 7 || o.At(api.ClassNumber) != 11 || o.At(api.ClassName) != 18 {
 		t.Fatalf("Integer is %d with %d slots: %d, %d", o.Oop(), o.Size(), o.At(api.ClassNumber), o.At(api.ClassName))
 	}
+	if c := o.Class(); c.Oop() != api.Class || c.Class().Oop() != api.Class || object.Of(k, api.Nil).Class().Oop() != api.UndefinedObject {
+		t.Fatalf("the class is %d", c.Oop())
+	}
 	if w, e := o.Word(); w != 32 || e != api.OK {
 		t.Fatalf("Word = %d, %d", w, e)
 	}
@@ -83,7 +86,7 @@ func TestReadsAll(t *testing.T) {
 		}
 	}
 	k.Space().Heap().SetClass(int(w)/4, 3)
-	if s.Is(0, 1) || s.Is(1, 1) {
+	if s.Is(0, 1) || s.Is(1, 1) || s.Class().Oop() != 0 {
 		t.Fatal("an object whose class is a number is of one")
 	}
 }
@@ -119,6 +122,9 @@ func TestNothing(t *testing.T) {
 			}
 			if o.NumberAt(0) != 0 || len(o.Words()) != 0 || len(o.Numbers()) != 0 || o.Bytes() != "" || o.Is(0, 0) || o.Is(4, 0) {
 				t.Fatalf("the object %d is there", oop)
+			}
+			if c := o.Class(); c.Oop() != 0 {
+				t.Fatalf("the class of %d is %d", oop, c.Oop())
 			}
 			if w, e := o.Word(); w != 0 || e == api.OK {
 				t.Fatalf("Word of %d = %d, %d", oop, w, e)
