@@ -162,12 +162,11 @@ func TestChangedHeaps(t *testing.T) {
 
 // P23.4, P23.5: the same, of worlds at random.
 func TestChangedWorlds(t *testing.T) {
-	for seed := range int64(60) {
-		r := &chooser{Rand: rand.New(rand.NewSource(2340 + seed))}
-		w := booted(t, 6000, 900)
-		w.acts(global("G"), global("H"), defines("A", "Object", "a b"), defines("B", "A", "c"))
+	for seed := range int64(16) {
+		r := choosing(2340 + seed)
+		w := peopled(t, 12000, 1500)
 		for range 150 {
-			w.do(r.act(proc.Count(w.k)))
+			w.do(r.act(w))
 		}
 		text := w.save()
 		for range 8 {

@@ -3,6 +3,7 @@ package image_test
 import (
 	"fmt"
 	"math/rand"
+	"slices"
 	"strings"
 	"testing"
 
@@ -11,31 +12,68 @@ import (
 	"kiln/proc"
 )
 
-// chooser chooses acts at random.
+// chooser chooses acts at random. Most of them can be done in the world as it is.
 type chooser struct {
 	*rand.Rand
-	deep int
+	names []string // what a source may read and store to
+	fixed []string // what it may read alone
+	deep  int
 }
+
+func choosing(seed int64) *chooser { return &chooser{Rand: rand.New(rand.NewSource(seed))} }
 
 func (r *chooser) one(list ...string) string { return list[r.Intn(len(list))] }
 
-func (r *chooser) class() string {
-	return r.one("A", "B", "C", "D", "A", "B", "Object", "Integer", "Block", "Array", "Class", "Nope")
+func (r *chooser) class(w *world) string {
+	if r.Intn(20) == 0 {
+		return r.one("Nope", "Class", "Message")
+	}
+	made := []string{"Object", "Integer", "Block", "Array"}
+	for n := api.KernelClasses + 1; n <= w.k.Count(); n++ {
+		oop, _ := w.k.Numbered(n)
+		info, _ := w.k.Info(oop)
+		made = append(made, info.Name, info.Name)
+	}
+	return r.one(made...)
 }
 
-func (r *chooser) fields() string {
+// fields is some names, those of the class first, mostly.
+func (r *chooser) fields(w *world, class string) []string {
 	list := []string{"a", "b", "c", "d", "e"}
 	r.Shuffle(len(list), func(i, j int) { list[i], list[j] = list[j], list[i] })
-	return strings.Join(list[:r.Intn(4)], " ")
+	list = list[:r.Intn(4)]
+	oop, _ := w.k.Find(class)
+	info, _ := w.k.Info(oop)
+	if r.Intn(4) == 0 {
+		return list
+	}
+	all := slices.Clone(info.Own)
+	for _, s := range list {
+		if !slices.Contains(all, s) {
+			all = append(all, s)
+		}
+	}
+	r.Shuffle(len(all), func(i, j int) { all[i], all[j] = all[j], all[i] })
+	return all
 }
 
-// block is one, with a parameter perhaps.
+// block is one, with so many parameters, and perhaps a temporary.
 func (r *chooser) block(params int) string {
-	names := []string{":i ", ":j ", ":k "}[r.Intn(3)]
-	if params == 0 {
-		return "[" + r.statements() + "]"
+	names, fixed := r.names, r.fixed
+	defer func() { r.names, r.fixed = names, fixed }()
+	r.names, r.fixed = slices.Clone(names), slices.Clone(fixed)
+	text := "["
+	if params > 0 {
+		name := fmt.Sprint("p", len(r.fixed))
+		r.fixed = append(r.fixed, name, name)
+		text += ":" + name + " | "
 	}
-	return "[" + names + "| " + r.statements() + "]"
+	if r.Intn(3) == 0 {
+		name := fmt.Sprint("v", len(r.names))
+		r.names = append(r.names, name, name)
+		text += "| " + name + " | "
+	}
+	return text + r.statements() + "]"
 }
 
 func (r *chooser) statements() string {
@@ -56,85 +94,111 @@ func (r *chooser) expression() string {
 	r.deep++
 	defer func() { r.deep-- }()
 	in := func() string { return "(" + r.expression() + ")" }
-	switch r.Intn(18) {
+	switch r.Intn(20) {
 	case 0, 1:
 		return r.leaf()
-	case 2, 3:
-		return r.one("a", "b", "G", "H", "t") + " := " + in()
-	case 4:
-		return in() + " " + r.one("foo", "bar", "zork", "class", "size", "copy", "printString", "value", "numArgs")
+	case 2, 3, 4:
+		return r.one(r.names...) + " := " + in()
 	case 5:
-		return in() + " " + r.one("+", "-", ",", "==", "=", "<") + " " + in()
+		return in() + " " + r.one("foo", "bar", "class", "isNil", "copy", "yourself", "value", "zork")
 	case 6:
-		return in() + " " + r.one("at:", "foo:", "zork:", "value:", "new:", "instVarAt:") + " " + in()
+		return r.one("1", "7", in()) + " " + r.one("+", "-", "==", "=", "~~") + " " + in()
 	case 7:
-		return in() + " " + r.one("at: 1 put:", "instVarAt: 1 put:", "foo: 1 bar:") + " " + in()
+		return in() + " " + r.one("foo:", "foo:", "zork:", "value:", "isKindOf:") + " " + in()
 	case 8:
-		return "super " + r.one("foo", "bar", "zork", "yourself")
+		return in() + " foo: 1 bar: " + in()
 	case 9:
+		return "super " + r.one("foo", "bar", "yourself", "class")
+	case 10:
 		return "self " + r.one("foo", "bar", "foo: 3", "yourself")
-	case 10, 11:
-		return r.block(r.Intn(2))
-	case 12:
-		return r.block(0) + " value"
+	case 11, 12:
+		return r.one("G", "H") + " := " + r.block(r.Intn(2))
 	case 13:
-		return r.block(1) + " value: " + in()
+		return r.block(0) + " value"
 	case 14:
-		return in() + " isNil ifTrue: " + r.block(0) + " ifFalse: " + r.block(0)
+		return r.block(1) + " value: " + in()
 	case 15:
-		return "1 to: 3 do: " + r.block(1)
+		return in() + " isNil " + r.one("ifTrue: ", "ifFalse: ", "and: ") + r.block(0)
 	case 16:
-		return r.one("A", "B", "C", "D", "Array") + " new" + r.one("", "", " foo", " bar")
+		return in() + " notNil ifTrue: " + r.block(0) + " ifFalse: " + r.block(0)
+	case 17:
+		return "1 to: 3 do: " + r.block(1)
+	case 18:
+		return r.one("G", "H", r.one(r.names...)) + " := " + r.one("A", "Object", "Array") + " new" + r.one("", "", ": 2")
 	}
-	return in() + " foo; bar; yourself"
+	return in() + " yourself; foo; class"
 }
 
 func (r *chooser) leaf() string {
-	return r.one("a", "b", "self", "nil", "true", "1", "2", "G", "H", "t", "i", "#a", "'ab'", "#(1 #(2 'c') #b)", "#()", "Object", "'mm' asSymbol")
+	return r.one(r.one(r.names...), r.one(append(r.fixed, "self")...), r.one("nil", "true", "1", "2", "#a", "'ab'", "#(1 #(2 'c') #b)", "#()", "Object", "A", "'mm' asSymbol"))
 }
 
-func (r *chooser) source(head string) string {
-	return head + " | t | " + r.statements()
+// source is a method's with such a head, or a doit's, of a class.
+func (r *chooser) source(w *world, head, class string) string {
+	r.names, r.fixed = []string{"G", "H", "t", "t"}, nil
+	oop, _ := w.k.Find(class)
+	fields, _ := w.k.Fields(oop)
+	r.names = append(append(r.names, fields...), fields...)
+	if strings.HasSuffix(head, " x") {
+		r.fixed = append(r.fixed, "x")
+	}
+	return strings.TrimSpace(head + " | t | " + r.statements())
+}
+
+// picked is a process that is ready, mostly.
+func (r *chooser) picked(w *world) int {
+	n := 1 + r.Intn(proc.Count(w.k)+1)
+	for range 6 {
+		if state, _ := proc.State(w.k, n); state == api.Ready {
+			return n
+		}
+		n = 1 + r.Intn(proc.Count(w.k)+1)
+	}
+	return n
 }
 
 // act is any act.
-func (r *chooser) act(processes int) api.Act {
-	switch r.Intn(14) {
+func (r *chooser) act(w *world) api.Act {
+	class := r.class(w)
+	switch r.Intn(16) {
 	case 0:
-		return defines(r.one("A", "B", "C", "D"), r.one("Object", "Object", "A", "B", "C"), r.fields())
+		return api.Act{Kind: api.ActClass, Name: r.one("A", "B", "C", "D", "E", "F"), Other: class, Names: r.fields(w, "Nope")}
 	case 1:
-		return global(r.one("G", "H", "J"))
+		return global(r.one("G", "H", "J", "K"))
 	case 2, 3, 4:
-		return lays(r.class(), r.source(r.one("foo", "bar", "foo: x", "foo: x bar: y", "doesNotUnderstand: m", "+ x")))
+		return lays(class, r.source(w, r.one("foo", "bar", "foo: x", "foo: x", "foo: x bar: y", "doesNotUnderstand: x", "+ x"), class))
 	case 5:
-		return removes(r.class(), r.one("foo", "bar", "foo:", "doesNotUnderstand:"))
-	case 6, 7:
-		return spawns(r.source(""))
-	case 8, 9, 10, 11:
-		return runs(1+r.Intn(processes+1), r.Intn(12))
-	case 12:
-		return reshapes(r.class(), r.fields())
+		return removes(class, r.one("foo", "bar", "foo:", "doesNotUnderstand:"))
+	case 6, 7, 8:
+		return spawns(r.source(w, "", "Nope"))
+	case 9, 10, 11, 12:
+		return runs(r.picked(w), r.Intn(12))
+	case 13, 14:
+		return api.Act{Kind: api.ActReshape, Name: class, Names: r.fields(w, class)}
 	}
 	if r.Intn(3) == 0 {
 		return api.Act{Kind: api.ActCollect}
 	}
-	return marks(r.Intn(60))
+	return marks(r.Intn(90))
+}
+
+// peopled is a world with two classes and globals.
+func peopled(t *testing.T, words, oops int) *world {
+	t.Helper()
+	w := booted(t, words, oops)
+	w.acts(global("G"), global("H"), defines("A", "Object", "a b"), defines("B", "A", "c"))
+	return w
 }
 
 // P23.5: whatever acts came ahead, a kernel is sound, Load takes what Save says,
 // and what is loaded says and does the same.
 func TestActs(t *testing.T) {
-	for seed := range int64(60) {
-		r := &chooser{Rand: rand.New(rand.NewSource(seed))}
-		words := []int{600, 1500, 9000}[r.Intn(3)]
-		w := booted(t, words, 60+r.Intn(900))
-		w.acts(global("G"), global("H"))
-		if seed%2 == 0 {
-			w.acts(defines("A", "Object", "a b"), defines("B", "A", "c"))
-		}
+	for seed := range int64(24) {
+		r := choosing(seed)
+		w := peopled(t, []int{500, 1500, 12000}[r.Intn(3)], 60+r.Intn(1500))
 		v := load(t, w.save())
 		for i := range 120 {
-			a := r.act(proc.Count(w.k))
+			a := r.act(w)
 			got, want := v.do(a), w.do(a)
 			if got != want {
 				t.Fatalf("seed %d, act %d %+v: %q, want %q", seed, i, a, got, want)

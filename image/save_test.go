@@ -69,11 +69,10 @@ func TestSaves(t *testing.T) {
 		t.Fatalf("Save = %q, want %q", got, want)
 	}
 	for seed := range int64(12) {
-		r := &chooser{Rand: rand.New(rand.NewSource(1000 + seed))}
-		w := booted(t, 4000, 500)
-		w.acts(global("G"), global("H"), defines("A", "Object", "a b"))
-		for range 60 {
-			w.do(r.act(5))
+		r := choosing(1000 + seed)
+		w := peopled(t, 6000, 900)
+		for range 100 {
+			w.do(r.act(w))
 		}
 		if got, want := w.save(), w.drawn().text(); got != want {
 			t.Fatalf("seed %d: Save = %q, want %q", seed, got, want)
